@@ -139,7 +139,7 @@ func cutsOf(changes, bytes int) [][]int {
 	return out
 }
 
-// P6.5: each operation of short rows of calls is the last ahead of a Crash, with all cuts.
+// P6.5: each operation of short rows of calls is the last ahead of a Crash, with a share of the cuts each.
 func TestStops(t *testing.T) {
 	cuts := cutsOf(6, 12)
 	for i, script := range scripts() {
