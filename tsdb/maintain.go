@@ -17,12 +17,23 @@ func (b *DB) Maintain() api.Errno {
 			return e
 		}
 	}
-	// What is too old goes first: it makes room, and needs none. A join leaves blocks that have nothing to add.
-	for _, step := range []func() api.Errno{b.clear, b.cut, b.renew, b.join, b.clear, b.again} {
+	// What is too old goes ahead of what is laid: it makes room, and needs none. A join leaves blocks that have nothing to add.
+	for _, step := range []func() api.Errno{b.meet, b.clear, b.cut, b.renew, b.join, b.clear, b.again} {
 		if e := step(); e != api.OK {
 			return e
 		}
 	}
+	return api.OK
+}
+
+// meet takes in the blocks that the disk has come to have, or will have by the next SyncDir, whoever does it: one whose laying down was refused may lack nothing but that, where the disk was stopped and goes on. If the log were begun anew without knowing of it, what hides its deleted samples would be lost. Nothing comes to be told: all that it has was told when it was laid.
+func (b *DB) meet() api.Errno {
+	if !slices.Equal(b.disk.List(""), b.disk.Durable()) {
+		if e := b.disk.SyncDir(); e != api.OK {
+			return e
+		}
+	}
+	b.gather()
 	return api.OK
 }
 

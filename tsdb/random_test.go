@@ -169,7 +169,7 @@ type trial struct {
 	sound   bool // no fault may wait, nor is it stopped or short of room
 	stopped bool
 	short   bool
-	cramped bool // it was short of room at some time since the last call that was kept: what a fault left then can't be taken back
+	cramped bool // it was short of room, or stopped, at some time since the last call that was kept: what was refused then can't be taken back
 	refused bool // the last call was, by the disk
 	faults  int  // none waits for a later operation than this
 }
@@ -212,7 +212,7 @@ func (x *trial) call() {
 		want.e = got.e
 		x.others = append(x.others, x.with(c))
 	} else {
-		x.now, x.others, x.cramped = x.with(c), nil, x.short
+		x.now, x.others, x.cramped = x.with(c), nil, x.short || x.stopped
 	}
 	if got.String() != want.String() {
 		x.t.Fatal(c, "answered", got, "want", want)
@@ -233,12 +233,18 @@ func (x *trial) strike() {
 		}
 	case 3, 4:
 		x.d.Stop(x.Intn(20))
-		x.stopped = true
+		x.stopped, x.cramped = true, true
 	case 5:
 		x.d.SetCapacity(x.d.Used() + x.Intn(300))
 		x.short, x.cramped = true, true
 	}
 	x.sound = false
+}
+
+// goOn lets a disk go on that is stopped, or will be.
+func (x *trial) goOn() {
+	resume(x.d)
+	x.stopped = false
 }
 
 // mend makes a disk sound, but for a stop.
@@ -278,14 +284,14 @@ func (x *trial) crash() {
 	x.others, x.sound, x.stopped, x.short, x.cramped, x.refused = nil, true, false, false, false, false
 }
 
-// P10.2 to P10.8: the same on a disk that fails, stops, is full, and crashes.
+// P10.2 to P10.8: the same on a disk that fails, stops, goes on, is full, and crashes.
 func TestAnyFaults(t *testing.T) {
 	seeds(t, 1500, func(t *testing.T, seed int) {
 		x := &trial{t: t, script: &script{Rand: rand.New(rand.NewSource(int64(seed)))}, d: disk.New(room), sound: true, faults: -1}
 		x.s = x.store()
 		x.open()
 		for step := range 40 {
-			switch x.Intn(14) {
+			switch x.Intn(16) {
 			case 0, 1:
 				x.strike()
 			case 2:
@@ -296,6 +302,8 @@ func TestAnyFaults(t *testing.T) {
 				x.reopen()
 			case 7:
 				x.crash()
+			case 8, 9:
+				x.goOn()
 			default:
 				x.call()
 			}
