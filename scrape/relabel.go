@@ -5,6 +5,7 @@ import (
 	"strings"
 
 	"vigil/api"
+	"vigil/expand"
 	"vigil/labels"
 	"vigil/num"
 	"vigil/regex"
@@ -84,7 +85,7 @@ rules:
 			if !ok {
 				continue rules
 			}
-			set = put(set, expand(r.Target, text, groups), expand(r.Replacement, text, groups))
+			set = put(set, expand.Label(r.Target, text, groups), expand.Label(r.Replacement, text, groups))
 		case api.Keep, api.Drop:
 			kept = r.prog.Match(r.text(set)) == (r.Action == api.Keep)
 			if !kept {
@@ -124,7 +125,7 @@ func (r rule) mapped(was []api.Label) []api.Label {
 	set := was
 	for _, x := range was {
 		if groups, ok := r.prog.Groups(x.Name); ok {
-			set = put(set, expand(r.Replacement, x.Name, groups), x.Value)
+			set = put(set, expand.Label(r.Replacement, x.Name, groups), x.Value)
 		}
 	}
 	return set
@@ -142,29 +143,6 @@ func put(set []api.Label, name, value string) []api.Label {
 		return set
 	}
 	return labels.With(set, name, value)
-}
-
-// expand is the template with the groups in it. It goes piece by piece, and no further than a label's name or value may be long, since a template of many groups may come to more than any memory holds.
-func expand(template, text string, groups []int) string {
-	var out strings.Builder
-	for template != "" && out.Len() <= api.MaxLabel {
-		end := pieceEnd(template)
-		out.WriteString(regex.Expand(template[:end], text, groups))
-		template = template[end:]
-	}
-	return out.String()
-}
-
-// pieceEnd is the end of the template's first piece, which has one group at most: the place of the next $ that is not the second one of a pair.
-func pieceEnd(template string) int {
-	first := 1
-	if strings.HasPrefix(template, "$$") {
-		first = 2
-	}
-	if next := strings.IndexByte(template[first:], '$'); next >= 0 {
-		return first + next
-	}
-	return len(template)
 }
 
 // sum reckons over a text's bytes as labels.Hash does over those of a set.
