@@ -137,7 +137,7 @@ func sinceNought(l []api.Sample, d float64) float64 {
 	return float64(covered(l) * (l[0].V / d))
 }
 
-// stretch is by how much the samples would be apart if they reached to the ends of their window, compared with what they are: to an end that is further away than a usual step, by half such a step; and ahead of the first one no further than for most seconds.
+// stretch is how many times as long the samples would be, if they reached to the ends of their window: half a step there, where an end is further away than about a step; ahead of the first one no more than most seconds.
 func stretch(l []api.Sample, most float64, from, to int) float64 {
 	whole := covered(l)
 	step := whole / float64(len(l)-1)
